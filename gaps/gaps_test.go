@@ -6,6 +6,7 @@ import (
 	"slices"
 	"sync/atomic"
 	"testing"
+	"time"
 
 	"paternoster/api"
 	"paternoster/gaps"
@@ -474,13 +475,15 @@ func blocks(t *testing.T, n, gap, room int) (*gaps.Buffer[*block], []atomic.Bool
 	return b, gone
 }
 
-// collected collects garbage until some blocks have gone, if they do.
+// collected collects garbage until some blocks have gone, if they do. Blocks
+// are told to have gone by another goroutine, which gets some time for it.
 func collected(gone []atomic.Bool, at, n int) bool {
-	for range 50 {
+	for range 1000 {
 		runtime.GC()
 		if !slices.ContainsFunc(count(at, n), func(i int) bool { return !gone[i].Load() }) {
 			return true
 		}
+		time.Sleep(time.Millisecond)
 	}
 	return false
 }
